@@ -55,13 +55,17 @@ func codeOf(err error) int64 {
 	return OK
 }
 
-// joined copies even a single part, so that no answer shares memory with an argument.
-func joined(parts ...string) string {
+func sizeOf(parts []string) int {
 	size := 0
 	for _, p := range parts {
 		size += len(p)
 	}
-	out := make([]byte, size)
+	return size
+}
+
+// joined copies even a single part, so that no answer shares memory with an argument.
+func joined(parts ...string) string {
+	out := make([]byte, sizeOf(parts))
 	at := 0
 	for _, p := range parts {
 		at += copy(out[at:], p)
