@@ -77,35 +77,48 @@ func plainCoderOf(l []impl.Bit) *plainCoder {
 	return p
 }
 
-// plainDecode is the decoder as the chapter says it: what is not there of the text is bytes 0.
-func plainDecode(text string, contexts []int64) []bool {
-	at := 0
-	x := big.NewInt(0)
-	take := func() {
+// plainDecoder is the decoder as the chapter says it: what is not there of the text is bytes 0.
+type plainDecoder struct {
+	parts *plainCoder
+	x     *big.Int
+	text  string
+	at    int
+}
+
+func newPlainDecoder(text string) *plainDecoder {
+	d := &plainDecoder{parts: newPlainCoder(), x: big.NewInt(0), text: text}
+	d.take(4)
+	return d
+}
+
+func (d *plainDecoder) take(many int) {
+	for range many {
 		next := byte(0)
-		if at < len(text) {
-			next = text[at]
+		if d.at < len(d.text) {
+			next = d.text[d.at]
 		}
-		at++
-		x.Mul(x, big.NewInt(256))
-		x.Add(x, big.NewInt(int64(next)))
-		x.Mod(x, new(big.Int).Lsh(big.NewInt(1), 64))
+		d.at++
+		d.x.Mul(d.x, big.NewInt(256))
+		d.x.Add(d.x, big.NewInt(int64(next)))
+		d.x.Mod(d.x, new(big.Int).Lsh(big.NewInt(1), 64))
 	}
-	for range 4 {
-		take()
+}
+
+func (d *plainDecoder) get(context int64) bool {
+	bound := d.parts.bound(context)
+	one := d.x.Cmp(bound) >= 0
+	if one {
+		d.x.Sub(d.x, bound)
 	}
-	p := newPlainCoder()
+	d.take(d.parts.put(impl.Bit{Context: context, One: one}))
+	return one
+}
+
+func plainDecode(text string, contexts []int64) []bool {
+	d := newPlainDecoder(text)
 	var out []bool
 	for _, c := range contexts {
-		bound := p.bound(c)
-		one := x.Cmp(bound) >= 0
-		if one {
-			x.Sub(x, bound)
-		}
-		out = append(out, one)
-		for range p.put(impl.Bit{Context: c, One: one}) {
-			take()
-		}
+		out = append(out, d.get(c))
 	}
 	return out
 }
